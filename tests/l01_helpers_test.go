@@ -152,10 +152,22 @@ func countsOf(list []impl.Book) map[impl.Book]int {
 // sameCounts reports whether two lists have the same books, each one as often.
 func sameCounts(a, b []impl.Book) bool { return reflect.DeepEqual(countsOf(a), countsOf(b)) }
 
-// isZero reports whether a result is a zero value; an empty slice is one.
-func isZero(result any) bool {
-	v := reflect.ValueOf(result)
-	return v.IsZero() || v.Kind() == reflect.Slice && v.Len() == 0
+// isZero reports whether a result is a zero value; an empty slice is one, also as a field.
+func isZero(result any) bool { return isZeroValue(reflect.ValueOf(result)) }
+
+func isZeroValue(v reflect.Value) bool {
+	switch v.Kind() {
+	case reflect.Slice:
+		return v.Len() == 0
+	case reflect.Struct:
+		for _, field := range v.Fields() {
+			if !isZeroValue(field) {
+				return false
+			}
+		}
+		return true
+	}
+	return v.IsZero()
 }
 
 // wantResults compares results, nil and empty slices being equal.
@@ -179,3 +191,79 @@ func all(results ...any) []any { return results }
 
 // code is an error code as the functions return it.
 func code(c int64) int64 { return c }
+
+// withRoom returns a copy with unused capacity, which is filled as far as it goes.
+func withRoom[T any](list []T, fill T) []T {
+	out := slices.Grow(slices.Clone(list), 9)
+	rest := out[len(out):cap(out)]
+	for i := range rest {
+		rest[i] = fill
+	}
+	return out
+}
+
+// whole returns a copy of a slice with all of its capacity.
+func whole[T any](list []T) []T { return slices.Clone(list[:cap(list)]) }
+
+// spoil overwrites all slices among results, those inside of others and of structs too, with their unused capacity.
+func spoil(results []any) {
+	for _, result := range results {
+		spoilValue(reflect.ValueOf(result))
+	}
+}
+
+func spoilValue(v reflect.Value) {
+	switch v.Kind() {
+	case reflect.Slice:
+		for i := range v.Len() {
+			spoilValue(v.Index(i))
+		}
+		v.Slice(0, v.Cap()).Clear()
+	case reflect.Struct:
+		for _, field := range v.Fields() {
+			spoilValue(field)
+		}
+	}
+}
+
+// wantPure is of promise 1: a call changes none of its arguments, shares no memory with them, and returns equal results for equal ones. roomy gives the same arguments with new slices that have room behind them, wholeOf copies them with all capacity.
+func wantPure[G any](t *testing.T, name string, g G, roomy, wholeOf func(G) G, run func(G) []any) {
+	t.Helper()
+	first, second := roomy(g), roomy(g)
+	wanted := wholeOf(first)
+	results := run(first)
+	wantResults(t, name+" again", run(second), results...)
+	wantResults(t, name+" without room", run(g), results...)
+	spoil(results)
+	if now := wholeOf(first); !reflect.DeepEqual(now, wanted) {
+		t.Fatalf("%s changes an argument of %v", name, g)
+	}
+	wantResults(t, name+" behind spoiled results", run(first), run(second)...)
+}
+
+// wantZeroBesideErrors is of promise 1: a call, which both fails and does not with some arguments, returns zero values beside each error.
+func wantZeroBesideErrors[G any](t *testing.T, name string, many []G, run func(G) []any) {
+	t.Helper()
+	failed, done := 0, 0
+	for _, g := range many {
+		results := run(g)
+		last := len(results) - 1
+		c := results[last].(int64)
+		if impl.CodeName(c) == "" {
+			t.Errorf("%s returns the code %d", name, c)
+		}
+		if c == impl.OK {
+			done++
+			continue
+		}
+		failed++
+		for _, result := range results[:last] {
+			if !isZero(result) {
+				t.Errorf("%s: %v beside the code %d", name, result, c)
+			}
+		}
+	}
+	if failed == 0 || done == 0 {
+		t.Errorf("%s fails %d times here, and not %d times", name, failed, done)
+	}
+}

@@ -4,7 +4,6 @@ import (
 	"fmt"
 	"math"
 	"math/rand/v2"
-	"reflect"
 	"slices"
 	"strings"
 	"testing"
@@ -143,37 +142,11 @@ func wholeShelves(g onShelves) onShelves {
 	return g
 }
 
-// spoilDeeply overwrites all numbers in slices among results, with their unused capacity.
-func spoilDeeply(results []any) {
-	for _, result := range results {
-		switch list := result.(type) {
-		case impl.Case:
-			spoil([]any{list.Heights})
-		case [][]int64:
-			for _, numbers := range list {
-				spoil([]any{numbers})
-			}
-			spoil([]any{list})
-		default:
-			spoil([]any{list})
-		}
-	}
-}
-
 // TestPureShelves is of promise 1: no argument is changed or shared with a result, and equal arguments have equal results.
 func TestPureShelves(t *testing.T) {
 	for _, call := range shelfCalls() {
 		for _, g := range manyOnShelves() {
-			first, second := roomyShelves(g), roomyShelves(g)
-			wanted := wholeShelves(first)
-			results := call.run(first)
-			wantResults(t, call.name+" again", call.run(second), results...)
-			wantResults(t, call.name+" without room", call.run(g), results...)
-			spoilDeeply(results)
-			if now := wholeShelves(first); !reflect.DeepEqual(now, wanted) {
-				t.Fatalf("%s changes an argument of %v", call.name, g)
-			}
-			wantResults(t, call.name+" behind spoiled results", call.run(first), call.run(second)...)
+			wantPure(t, call.name, g, roomyShelves, wholeShelves, call.run)
 		}
 	}
 }
@@ -204,30 +177,8 @@ func TestListsOfTables(t *testing.T) {
 // TestZeroBesideErrorsOfShelves is of promise 1: beside an error all other results are zero values.
 func TestZeroBesideErrorsOfShelves(t *testing.T) {
 	for _, call := range shelfCalls() {
-		if !call.hasCode {
-			continue
-		}
-		failed, done := 0, 0
-		for _, g := range manyOnShelves() {
-			results := call.run(g)
-			last := len(results) - 1
-			c := results[last].(int64)
-			if impl.CodeName(c) == "" {
-				t.Errorf("%s returns the code %d", call.name, c)
-			}
-			if c == impl.OK {
-				done++
-				continue
-			}
-			failed++
-			for _, result := range results[:last] {
-				if !isZero(result) {
-					t.Errorf("%s: %v beside the code %d", call.name, result, c)
-				}
-			}
-		}
-		if failed == 0 || done == 0 {
-			t.Errorf("%s fails %d times here, and not %d times", call.name, failed, done)
+		if call.hasCode {
+			wantZeroBesideErrors(t, call.name, manyOnShelves(), call.run)
 		}
 	}
 }

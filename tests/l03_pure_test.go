@@ -4,7 +4,6 @@ import (
 	"fmt"
 	"math"
 	"math/rand/v2"
-	"reflect"
 	"slices"
 	"strings"
 	"testing"
@@ -122,16 +121,7 @@ func wholeSorting(g outOfOrder) outOfOrder {
 func TestPureSorting(t *testing.T) {
 	for _, call := range sortCalls() {
 		for _, g := range manyOutOfOrder() {
-			first, second := roomySorting(g), roomySorting(g)
-			wanted := wholeSorting(first)
-			results := call.run(first)
-			wantResults(t, call.name+" again", call.run(second), results...)
-			wantResults(t, call.name+" without room", call.run(g), results...)
-			spoil(results)
-			if now := wholeSorting(first); !reflect.DeepEqual(now, wanted) {
-				t.Fatalf("%s changes an argument of %v", call.name, g)
-			}
-			wantResults(t, call.name+" behind spoiled results", call.run(first), call.run(second)...)
+			wantPure(t, call.name, g, roomySorting, wholeSorting, call.run)
 		}
 	}
 }
@@ -139,30 +129,8 @@ func TestPureSorting(t *testing.T) {
 // TestZeroBesideErrorsOfSorting is of promise 1: beside an error all other results are zero values.
 func TestZeroBesideErrorsOfSorting(t *testing.T) {
 	for _, call := range sortCalls() {
-		if !call.hasCode {
-			continue
-		}
-		failed, done := 0, 0
-		for _, g := range manyOutOfOrder() {
-			results := call.run(g)
-			last := len(results) - 1
-			c := results[last].(int64)
-			if impl.CodeName(c) == "" {
-				t.Errorf("%s returns the code %d", call.name, c)
-			}
-			if c == impl.OK {
-				done++
-				continue
-			}
-			failed++
-			for _, result := range results[:last] {
-				if !isZero(result) {
-					t.Errorf("%s: %v beside the code %d", call.name, result, c)
-				}
-			}
-		}
-		if failed == 0 || done == 0 {
-			t.Errorf("%s fails %d times here, and not %d times", call.name, failed, done)
+		if call.hasCode {
+			wantZeroBesideErrors(t, call.name, manyOutOfOrder(), call.run)
 		}
 	}
 }

@@ -4,7 +4,6 @@ import (
 	"fmt"
 	"math"
 	"math/rand/v2"
-	"reflect"
 	"slices"
 	"strings"
 	"testing"
@@ -126,16 +125,7 @@ func wholePegs(g onPegs) onPegs {
 func TestPureHeights(t *testing.T) {
 	for _, call := range pegCalls() {
 		for _, g := range manyOnPegs() {
-			first, second := roomyPegs(g), roomyPegs(g)
-			wanted := wholePegs(first)
-			results := call.run(first)
-			wantResults(t, call.name+" again", call.run(second), results...)
-			wantResults(t, call.name+" without room", call.run(g), results...)
-			spoilDeeply(results)
-			if now := wholePegs(first); !reflect.DeepEqual(now, wanted) {
-				t.Fatalf("%s changes an argument of %v", call.name, g)
-			}
-			wantResults(t, call.name+" behind spoiled results", call.run(first), call.run(second)...)
+			wantPure(t, call.name, g, roomyPegs, wholePegs, call.run)
 		}
 	}
 }
@@ -168,38 +158,10 @@ func TestPartsOfResults(t *testing.T) {
 // TestZeroBesideErrorsOfHeights is of promise 1: beside an error all other results are zero values.
 func TestZeroBesideErrorsOfHeights(t *testing.T) {
 	for _, call := range pegCalls() {
-		if !call.hasCode {
-			continue
-		}
-		failed, done := 0, 0
-		for _, g := range manyOnPegs() {
-			results := call.run(g)
-			last := len(results) - 1
-			c := results[last].(int64)
-			if impl.CodeName(c) == "" {
-				t.Errorf("%s returns the code %d", call.name, c)
-			}
-			if c == impl.OK {
-				done++
-				continue
-			}
-			failed++
-			for _, result := range results[:last] {
-				if !isZero(result) && !isZeroCase(result) {
-					t.Errorf("%s: %v beside the code %d", call.name, result, c)
-				}
-			}
-		}
-		if failed == 0 || done == 0 {
-			t.Errorf("%s fails %d times here, and not %d times", call.name, failed, done)
+		if call.hasCode {
+			wantZeroBesideErrors(t, call.name, manyOnPegs(), call.run)
 		}
 	}
-}
-
-// isZeroCase reports whether a result is a case without anything.
-func isZeroCase(result any) bool {
-	c, is := result.(impl.Case)
-	return is && impl.SameCase(c, impl.Case{})
 }
 
 // TestOrderOfErrorsOfHeights is of promise 1: pegs, heights and books that are not valid are told first, and widths behind them, ahead of all others.
